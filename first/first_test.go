@@ -114,6 +114,9 @@ func numbers(from, to int) []string {
 	return list
 }
 
+// brief is the beginning of what is printed of something.
+func brief(x any) string { return fmt.Sprintf("%.300s", fmt.Sprint(x)) }
+
 // checkWords expects words; the format and its arguments tell whose they are.
 func checkWords(t *testing.T, got, want []string, format string, args ...any) {
 	t.Helper()
@@ -127,7 +130,7 @@ func checkSets(t *testing.T, g api.Gram, k int, want [][]string) {
 	t.Helper()
 	got, errno := first.Sets(g, k)
 	if errno != api.OK || len(got) != len(want) {
-		t.Fatalf("%d sets instead of %d, %d, with %d for %.300v", len(got), len(want), errno, k, g)
+		t.Fatalf("%d sets instead of %d, %d, with %d for %s", len(got), len(want), errno, k, brief(g))
 	}
 	for n := range want {
 		checkWords(t, got[n], want[n], "Sets for %d with %d of %v", n, k, g)
@@ -138,7 +141,7 @@ func checkSets(t *testing.T, g api.Gram, k int, want [][]string) {
 func checkError(t *testing.T, g api.Gram, k int, want api.Errno) {
 	t.Helper()
 	if got, errno := first.Sets(g, k); errno != want || got != nil {
-		t.Fatalf("%d sets, %d, not %d, with %d for %.300v", len(got), errno, want, k, g)
+		t.Fatalf("%d sets, %d, not %d, with %d for %s", len(got), errno, want, k, brief(g))
 	}
 }
 
@@ -146,7 +149,7 @@ func checkError(t *testing.T, g api.Gram, k int, want api.Errno) {
 func checkSize(t *testing.T, g api.Gram, k, want int) {
 	t.Helper()
 	if got, errno := first.Sets(g, k); errno != api.OK || len(got) != len(g.Names) || len(got[0]) != want {
-		t.Fatalf("%d sets, %d, with %d for %.300v", len(got), errno, k, g)
+		t.Fatalf("%d sets, %d, with %d for %s", len(got), errno, k, brief(g))
 	}
 }
 
@@ -164,7 +167,7 @@ func checkOf(t *testing.T, want []string, sets [][]string, k int, syms ...int) {
 func checkNone(t *testing.T, sets [][]string, k int, syms ...int) {
 	t.Helper()
 	if got, ok := first.Of(sets, k, syms...); ok || got != nil {
-		t.Fatalf("%.300v has a first set of %d words, %t, with %d", syms, len(got), ok, k)
+		t.Fatalf("%s has a first set of %d words, %t, with %d", brief(syms), len(got), ok, k)
 	}
 }
 
@@ -753,6 +756,25 @@ func TestManyLargeRightSides(t *testing.T) {
 	checkSize(t, g, 2, api.MaxWords)
 	checkError(t, g, 3, api.ErrLimit)
 	checkError(t, g, 4, api.ErrLimit)
+}
+
+// Long right sides that can be empty have the same beginnings again and again.
+func TestLongRightSidesThatCanBeEmpty(t *testing.T) {
+	random := rand.New(rand.NewSource(208))
+	g := sized(60, 7)
+	for n := range g.Names {
+		g.Rules = append(g.Rules, rule(n), rule(n, -1-n%7))
+		for range 3 {
+			r := rule(n, (n+1)%60)
+			for range api.MaxRight - 1 {
+				r.Right = append(r.Right, random.Intn(60))
+			}
+			g.Rules = append(g.Rules, r)
+		}
+	}
+	for k := 1; k <= 4; k++ {
+		checkSets(t, g, k, slices.Repeat([][]string{ordered(allWords(7, k))}, 60))
+	}
 }
 
 // Promise 20.2: strings of symbols written out.
